@@ -106,3 +106,41 @@ func Plant(m *core.Machine, key, val int64, born uint64) {
 	store(inner, plan.Left+1-side, uint64(at.Edge))
 	store(at.Parent, plan.Left+at.Side, uint64(inner))
 }
+
+// Rest is what is wrong in memory at rest: marks, and slots that are not in the tree, in a bag or free, just once; empty, if nothing is.
+func Rest(m *core.Machine) string {
+	if m.Fault() {
+		return "the machine is at fault"
+	}
+	if Marks(m) > 0 {
+		return "an edge has a mark"
+	}
+	w := m.Mem().Words()
+	link := func(slot int) uint64 { return w[m.Plan().Node(slot, plan.Link)] }
+	seen := make([]int, m.Plan().Conf().Slots+1)
+	held := 0
+	for _, n := range Tree(m) {
+		seen[n.Edge.Slot()]++
+		held++
+	}
+	for t := range m.Threads() {
+		for b := range 3 {
+			for e := edge.Edge(w[m.Plan().Bag(t, b)]); e != 0 && seen[e.Slot()] < 2; e = edge.Edge(link(e.Slot())) {
+				seen[e.Slot()]++
+				held++
+			}
+		}
+	}
+	if held != m.Guard().Held() {
+		return "not all that is held is in the tree or in a bag"
+	}
+	for s := badge.Slot(w[plan.Free]); s != 0 && seen[s] < 2; s = int(link(s)) {
+		seen[s]++
+	}
+	for _, n := range seen[1:] {
+		if n != 1 {
+			return "a slot isn't in the tree, in a bag or free just once"
+		}
+	}
+	return ""
+}

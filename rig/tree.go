@@ -1,6 +1,7 @@
 package rig
 
 import (
+	"deadwood/api"
 	"deadwood/badge"
 	"deadwood/core"
 	"deadwood/edge"
@@ -15,7 +16,8 @@ type Node struct {
 	Side, Deep   int
 	Leaf         bool
 	Key          order.Key
-	Died         uint64
+	Val          int64
+	Born, Died   uint64
 }
 
 // Tree is the nodes of a tree, each Left side ahead of its Right one; more than there are slots are not told.
@@ -31,7 +33,8 @@ func Tree(m *core.Machine) []Node {
 		leaf, class, _ := order.Read(field(n.Edge, plan.Info))
 		n.Leaf, n.Key = leaf, order.Key{Class: class, N: word.Signed(field(n.Edge, plan.Key))}
 		if leaf {
-			n.Died = field(n.Edge, plan.Died)
+			n.Val = word.Signed(field(n.Edge, plan.Value))
+			n.Born, n.Died = field(n.Edge, plan.Born), field(n.Edge, plan.Died)
 		}
 		out = append(out, n)
 		for side := 0; side < 2 && !leaf; side++ {
@@ -42,13 +45,22 @@ func Tree(m *core.Machine) []Node {
 	return out
 }
 
-// Keys is the users' keys of the tree's leaves that aren't dead, in their order.
-func Keys(m *core.Machine) []int64 {
-	var out []int64
+// Pairs is the users' keys, and their values, of the tree's leaves that aren't dead, in their order.
+func Pairs(m *core.Machine) []api.Pair {
+	var out []api.Pair
 	for _, n := range Tree(m) {
 		if n.Leaf && n.Key.Class == 0 && n.Died == 0 {
-			out = append(out, n.Key.N)
+			out = append(out, api.Pair{Key: n.Key.N, Val: n.Val})
 		}
+	}
+	return out
+}
+
+// Keys is the keys of these pairs.
+func Keys(m *core.Machine) []int64 {
+	var out []int64
+	for _, p := range Pairs(m) {
+		out = append(out, p.Key)
 	}
 	return out
 }

@@ -121,6 +121,39 @@ func TestSessions(t *testing.T) { // 31.1
 	}
 }
 
+// TestWhoIsAbout has each call announce itself ahead of its coming to nodes, and be idle behind it.
+func TestWhoIsAbout(t *testing.T) { // 31.1
+	r := rig.New(1, 30, 9, Do)
+	kind(t, r, 0, op(api.Join))
+	kind(t, r, 0, api.Call{Op: api.Insert, Key: 1})
+	for o := range 9 {
+		Begin(r.M, 0, api.Call{Op: o, Key: 1, Hi: 9, Limit: 1})
+		epochs, came := 0, false
+		was := r.M.Mem().Words()[plan.Epoch]
+		for more := true; more; {
+			about := r.M.Mem().Words()[r.M.Plan().Active(0)] != 0
+			if f := r.M.Thread(0).Top(); f.Fn >= 30 && f.Fn < Call {
+				came = true
+				if !about {
+					t.Fatalf("Op %d comes to nodes, and has not entered", o)
+				}
+			}
+			more = r.M.Step(0, Do)
+			if now := r.M.Mem().Words()[plan.Epoch]; now != was {
+				was = now
+				epochs++
+			}
+		}
+		want := 1
+		if o == api.Lookup {
+			want = 0
+		}
+		if !came || r.M.Mem().Words()[r.M.Plan().Active(0)] != 0 || epochs != want {
+			t.Errorf("Op %d has the epoch go on %d times", o, epochs)
+		}
+	}
+}
+
 func TestBegin(t *testing.T) { // 31.1
 	r := rig.New(2, 30, 9, Do)
 	c := api.Call{Op: api.Range, Key: -1, Val: 2, Hi: math.MinInt64, Limit: 3}

@@ -74,6 +74,8 @@ var histories = [][]api.Oper{
 	{oper(0, 2), oper(1, -1), oper(3, 4), oper(5, -1)},
 	{oper(0, 7), oper(1, 2), oper(3, 5), oper(4, 6)},
 	{oper(5, 1), oper(3, 2), oper(9, 0)}, // such as no history has
+	{oper(1, 0), oper(2, 3), oper(0, 3)},
+	{oper(4, 0), oper(0, 0), oper(1, 0), oper(1, 1)},
 }
 
 func TestMayAndFree(t *testing.T) { // 12.1, 12.2, 12.3

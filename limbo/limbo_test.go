@@ -100,6 +100,13 @@ func TestOfAnEmptyListNothingIsWritten(t *testing.T) { // 19.1
 	if !slices.Equal(r.M.Mem().Words(), was) {
 		t.Error("something is written")
 	}
+	before := r.M.Mem().Accesses()
+	if r.Alone(0, 50, Drain, 1); r.M.Mem().Accesses() != before+1 {
+		t.Error("of an empty list the head is read, and that is all")
+	}
+	if r.Alone(0, 50, Clean); r.M.Mem().Accesses() != before+1+7 {
+		t.Error("the epoch is read, and of each bag the stamp and the head")
+	}
 	if r.M.Fault() {
 		t.Error("the machine is at fault")
 	}

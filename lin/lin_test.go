@@ -132,6 +132,8 @@ func TestFirstOnesByHand(t *testing.T) { // 13.1
 	find([]api.Oper{join, oper(api.Insert, 1, 0, 2, -1), oper(api.Insert, 1, api.Exists, 3, 4)}, true, 0, 1, 2)
 	find([]api.Oper{join, oper(api.Delete, 1, 0, 2, -1), oper(api.Insert, 1, api.Done, 3, 4)}, true, 0, 1, 2)
 	find([]api.Oper{oper(api.Lookup, 1, api.Found, 0, 1)}, false)
+	find([]api.Oper{join, oper(api.Insert, 1, 0, 2, -1), oper(api.Insert, 1, api.Done, 3, 4)}, true, 0, 2)
+	find([]api.Oper{join, oper(api.Insert, 2, 0, 2, -1), oper(api.Insert, 1, 0, 3, -1), oper(api.Insert, 1, api.Done, 4, 6), oper(api.Insert, 2, api.Exists, 5, 7)}, true, 0, 1, 3, 2, 4)
 }
 
 func TestTries(t *testing.T) { // 13.2
@@ -148,6 +150,18 @@ func TestTries(t *testing.T) { // 13.2
 		if got := Tries(c.o, 1); got != c.want {
 			t.Errorf("case %d: %d met, not %d", i, got, c.want)
 		}
+	}
+}
+
+// TestWhatWasMetIsNotLookedAtAgain has so many orders that nobody goes through them one by one.
+func TestWhatWasMetIsNotLookedAtAgain(t *testing.T) { // 13.1, 13.2
+	o := []api.Oper{oper(api.Join, 0, api.Done, 0, 1)}
+	for k := range 14 {
+		o = append(o, oper(api.Insert, int64(k), api.Done, 2+k, 30+k))
+	}
+	o = append(o, oper(api.Insert, 3, api.Done, 90, 91))
+	if l, ok := Find(o, 1); ok || len(l) != 0 || Tries(o, 1) != 1+1<<14 {
+		t.Errorf("%d met", Tries(o, 1))
 	}
 }
 

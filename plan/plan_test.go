@@ -120,3 +120,12 @@ func TestNilPlan(t *testing.T) { // 5.2
 		t.Error("a nil plan has words")
 	}
 }
+
+func TestNumbers(t *testing.T) { // 5.1, 5.2: the numbers as the document has them
+	if Clock != 0 || Epoch != 1 || Free != 2 || Link != 0 || Gen != 1 || Info != 2 || Key != 3 || Left != 4 || Right != 5 || Died != 6 || Value != 4 || Born != 5 {
+		t.Error("words and fields")
+	}
+	if Alone != 0 || Active != 1 || Victim != 2 || Stamp != 3 || Bag != 4 || Node != 5 {
+		t.Error("kinds")
+	}
+}

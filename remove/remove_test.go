@@ -86,8 +86,27 @@ func TestOfADeadLeaf(t *testing.T) { // 23.1, 23.2
 	leaf, _ := rig.Leaf(r.M, 25)
 	r.M.Write(leaf.Edge, plan.Died, 1)
 	was := r.M.Mem().Words()
-	if told, _ := r.Alone(0, most, Remove, 25); told != [12]uint64{api.None} || !slices.Equal(r.M.Mem().Words(), was) {
+	r.M.Thread(0).Call(Remove, 25)
+	for r.M.Step(0, Do) {
+		if victim(r, 0) != 0 {
+			t.Fatal("a dead leaf is announced")
+		}
+	}
+	if told := r.M.Thread(0).Ret; told != [12]uint64{api.None} || !slices.Equal(r.M.Mem().Words(), was) {
 		t.Errorf("Remove of a dead leaf tells %v", told)
+	}
+}
+
+func TestWhatIsAnnouncedIsPlain(t *testing.T) { // 23.1
+	for _, marks := range []edge.Edge{edge.Edge(0).Flagged(), edge.Edge(0).Tagged()} {
+		r := forest(keys...)
+		leaf, _ := rig.Leaf(r.M, 25)
+		r.M.Write(leaf.Parent, plan.Left+leaf.Side, uint64(leaf.Edge|marks))
+		r.M.Thread(1).Call(Remove, 25)
+		until(r, 1, removeClock)
+		if victim(r, 1) != uint64(leaf.Edge) {
+			t.Errorf("announced is %x", victim(r, 1))
+		}
 	}
 }
 

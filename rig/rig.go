@@ -104,7 +104,7 @@ func (r *Rig) idle() bool {
 	return true
 }
 
-// Alone has a thread do a routine, while nobody else does a step: what is told, and how many steps it took (most, if it did not end).
+// Alone has a thread do a routine, while nobody else does a step: what is told, and how many steps it took (most, and all ones are told, if it did not end).
 func (r *Rig) Alone(t, most, fn int, regs ...uint64) (told [12]uint64, steps int) {
 	r.M.Thread(t).Call(fn, regs...)
 	depth := r.M.Thread(t).Depth()
@@ -112,7 +112,13 @@ func (r *Rig) Alone(t, most, fn int, regs ...uint64) (told [12]uint64, steps int
 		r.M.Step(t, r.Do)
 		steps++
 	}
-	return r.M.Thread(t).Ret, steps
+	told = r.M.Thread(t).Ret
+	if r.M.Thread(t).Depth() >= depth {
+		for i := range told {
+			told[i] = ^uint64(0)
+		}
+	}
+	return told, steps
 }
 
 // Told is a done call as two events, one behind the other.

@@ -49,7 +49,7 @@ func TestPutAndTake(t *testing.T) { // 14.1, 14.3
 }
 
 func TestMay(t *testing.T) { // 14.1
-	if !May(some) || !May(api.Script{Conf: conf(6, 250, 1<<40)}) {
+	if !May(some) || !May(api.Script{Conf: conf(6, 250, 1<<40)}) || !May(api.Script{Conf: conf(6, 250, 1<<40), Entries: []api.Entry{begin(0, api.Call{})}}) {
 		t.Error("they may be written")
 	}
 	c := conf(1, 7, 1)

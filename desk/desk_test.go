@@ -7,6 +7,7 @@ import (
 	"testing"
 
 	"deadwood/api"
+	"deadwood/index"
 	"deadwood/rig"
 	"deadwood/run"
 	"deadwood/text"
@@ -51,7 +52,7 @@ func TestEachLine(t *testing.T) { // 37.1
 func TestEndThatFails(t *testing.T) { // 37.1
 	d := lines(t, "conf 1 30 9 > ok", "begin 0 join > ok")
 	d.Run().Machine().Thread(0).Call(99) // a routine that nobody does
-	if d.Line("end") != "no" {
+	if d.Line("end") != "no" || d.Run().Counts().Steps != 8*index.Most(d.Run().Machine().Plan().Conf()) {
 		t.Error("a thread that comes to no end")
 	}
 }

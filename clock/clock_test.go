@@ -149,7 +149,6 @@ func TestWhatIsThereAtATime(t *testing.T) { // 25.2
 }
 
 func TestOtherRoutines(t *testing.T) { // 25.1
-	Do(nil, 0)
 	r := rig.New(1, 8, 9, Do)
 	if told := chore.Alone(r, 0, api.Call{Op: api.Insert, Key: 5}); told.Kind != api.Done {
 		t.Error("Insert is done")
@@ -157,19 +156,7 @@ func TestOtherRoutines(t *testing.T) { // 25.1
 	if told, _ := r.Alone(0, 99, find.Find, 5); told[0] != api.Found {
 		t.Error("Find is done")
 	}
-	was := r.M.Mem().Accesses()
-	for _, fn := range []int{0, 59, 61, 70} {
-		r.M.Thread(0).Call(fn)
-		Do(r.M, 0)
-		if r.M.Thread(0).Top().Fn != fn {
-			t.Errorf("routine %d is done", fn)
-		}
-		r.M.Thread(0).Back()
-	}
-	Do(r.M, -1)
-	Do(r.M, 0)
-	Do(r.M, 1)
-	if r.M.Mem().Accesses() != was || r.M.Fault() {
-		t.Error("something is done")
+	if fn, is := r.DoesNone(0, 59, 61, 70); !is {
+		t.Errorf("routine %d is done", fn)
 	}
 }

@@ -93,7 +93,6 @@ func TestBetweenItsSteps(t *testing.T) { // 18.1
 }
 
 func TestOtherRoutines(t *testing.T) { // 18.1
-	Do(nil, 0)
 	r := rig.New(1, 8, 9, Do)
 	if told, _ := r.Alone(0, 9, slotting.Take); told[0] != 6 {
 		t.Error("Take is done")
@@ -101,20 +100,8 @@ func TestOtherRoutines(t *testing.T) { // 18.1
 	if r.Alone(0, 9, slotting.Give, 6); r.M.Guard().Held() != 5 {
 		t.Error("Give is done")
 	}
-	was := r.M.Mem().Accesses()
-	for _, fn := range []int{0, 9, 13, 20} {
-		r.M.Thread(0).Call(fn)
-		Do(r.M, 0)
-		if r.M.Thread(0).Top().Fn != fn || r.M.Mem().Accesses() != was {
-			t.Errorf("routine %d is done", fn)
-		}
-		r.M.Thread(0).Back()
-	}
-	Do(r.M, -1)
-	Do(r.M, 0)
-	Do(r.M, 1)
-	if r.M.Mem().Accesses() != was || r.M.Fault() {
-		t.Error("something is done")
+	if fn, is := r.DoesNone(0, 9, 13, 20); !is {
+		t.Errorf("routine %d is done", fn)
 	}
 }
 

@@ -144,7 +144,6 @@ func TestThePlaceIsSoughtOnce(t *testing.T) { // 24.1
 }
 
 func TestOtherRoutines(t *testing.T) { // 24.1
-	Do(nil, 0)
 	r := rig.New(1, 8, 9, Do)
 	if told, _ := r.Alone(0, 99, inserting.Insert, 5); told[0] != api.Done {
 		t.Error("Insert is done")
@@ -152,19 +151,7 @@ func TestOtherRoutines(t *testing.T) { // 24.1
 	if told, _ := r.Alone(0, 99, removing.Remove, 5); told[0] != api.Found {
 		t.Error("Remove is done")
 	}
-	was := r.M.Mem().Accesses()
-	for _, fn := range []int{0, 49, 53, 60} {
-		r.M.Thread(0).Call(fn)
-		Do(r.M, 0)
-		if r.M.Thread(0).Top().Fn != fn {
-			t.Errorf("routine %d is done", fn)
-		}
-		r.M.Thread(0).Back()
-	}
-	Do(r.M, -1)
-	Do(r.M, 0)
-	Do(r.M, 1)
-	if r.M.Mem().Accesses() != was || r.M.Fault() {
-		t.Error("something is done")
+	if fn, is := r.DoesNone(0, 49, 53, 60); !is {
+		t.Errorf("routine %d is done", fn)
 	}
 }

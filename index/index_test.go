@@ -265,7 +265,6 @@ func TestWhateverTheTurns(t *testing.T) { // 31.3
 }
 
 func TestOtherRoutines(t *testing.T) { // 31.1
-	Do(nil, 0)
 	r := rig.New(1, 8, 9, Do)
 	if told, _ := r.Alone(0, 999, ask.Ask, api.Count, 0, 9); told[0] != api.Counted {
 		t.Error("Ask is done")
@@ -273,19 +272,7 @@ func TestOtherRoutines(t *testing.T) { // 31.1
 	if told, _ := r.Alone(0, 999, cursor.Open, 0, 9); told[0] != api.Done {
 		t.Error("Open is done")
 	}
-	was := r.M.Mem().Accesses()
-	for _, fn := range []int{0, 59, 69, 73, 82, 91} {
-		r.M.Thread(0).Call(fn)
-		Do(r.M, 0)
-		if r.M.Thread(0).Top().Fn != fn {
-			t.Errorf("routine %d is done", fn)
-		}
-		r.M.Thread(0).Back()
-	}
-	Do(r.M, -1)
-	Do(r.M, 0)
-	Do(r.M, 1)
-	if r.M.Mem().Accesses() != was || r.M.Fault() {
-		t.Error("something is done")
+	if fn, is := r.DoesNone(0, 59, 69, 73, 82, 91); !is {
+		t.Errorf("routine %d is done", fn)
 	}
 }

@@ -213,7 +213,6 @@ func TestWhateverTheTurns(t *testing.T) { // 22.2
 }
 
 func TestOtherRoutines(t *testing.T) { // 22.1
-	Do(nil, 0)
 	r := rig.New(1, 8, 9, Do)
 	if told, _ := r.Alone(0, 99, seek.Seek, 5); told[5] != 3 {
 		t.Error("Seek is done")
@@ -221,19 +220,7 @@ func TestOtherRoutines(t *testing.T) { // 22.1
 	if told, _ := r.Alone(0, 99, slotting.Take); edge.Edge(told[0]) != 6 {
 		t.Error("Take is done")
 	}
-	was := r.M.Mem().Accesses()
-	for _, fn := range []int{0, 49, 51, 60} {
-		r.M.Thread(0).Call(fn)
-		Do(r.M, 0)
-		if r.M.Thread(0).Top().Fn != fn {
-			t.Errorf("routine %d is done", fn)
-		}
-		r.M.Thread(0).Back()
-	}
-	Do(r.M, -1)
-	Do(r.M, 0)
-	Do(r.M, 1)
-	if r.M.Mem().Accesses() != was || r.M.Fault() {
-		t.Error("something is done")
+	if fn, is := r.DoesNone(0, 49, 51, 60); !is {
+		t.Errorf("routine %d is done", fn)
 	}
 }

@@ -113,25 +113,12 @@ func TestOfAnEmptyListNothingIsWritten(t *testing.T) { // 19.1
 }
 
 func TestOtherRoutines(t *testing.T) { // 19.1
-	Do(nil, 0)
 	r := rig.New(1, 8, 9, Do)
 	if told, _ := r.Alone(0, 9, epoch.Advance); told[0] != 1 || take(r, 0) != 6 {
 		t.Error("routines of the layers below are done")
 	}
-	was := r.M.Mem().Accesses()
-	for _, fn := range []int{0, 19, 23, 30} {
-		r.M.Thread(0).Call(fn)
-		Do(r.M, 0)
-		if r.M.Thread(0).Top().Fn != fn {
-			t.Errorf("routine %d is done", fn)
-		}
-		r.M.Thread(0).Back()
-	}
-	Do(r.M, -1)
-	Do(r.M, 0)
-	Do(r.M, 1)
-	if r.M.Mem().Accesses() != was || r.M.Fault() {
-		t.Error("something is done")
+	if fn, is := r.DoesNone(0, 19, 23, 30); !is {
+		t.Errorf("routine %d is done", fn)
 	}
 }
 

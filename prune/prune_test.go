@@ -199,7 +199,6 @@ func TestPruneOfAWay(t *testing.T) { // 21.1, 21.2
 }
 
 func TestOtherRoutines(t *testing.T) { // 21.1
-	Do(nil, 0)
 	r := rig.New(1, 8, 9, Do)
 	if told, _ := r.Alone(0, 99, seeking.Seek, 5); told[5] != 3 {
 		t.Error("Seek is done")
@@ -207,19 +206,7 @@ func TestOtherRoutines(t *testing.T) { // 21.1
 	if _, steps := r.Alone(0, 99, limbo.Clean); steps == 99 {
 		t.Error("Clean is done")
 	}
-	was := r.M.Mem().Accesses()
-	for _, fn := range []int{0, 39, 42, 50} {
-		r.M.Thread(0).Call(fn)
-		Do(r.M, 0)
-		if r.M.Thread(0).Top().Fn != fn {
-			t.Errorf("routine %d is done", fn)
-		}
-		r.M.Thread(0).Back()
-	}
-	Do(r.M, -1)
-	Do(r.M, 0)
-	Do(r.M, 1)
-	if r.M.Mem().Accesses() != was || r.M.Fault() {
-		t.Error("something is done")
+	if fn, is := r.DoesNone(0, 39, 42, 50); !is {
+		t.Errorf("routine %d is done", fn)
 	}
 }

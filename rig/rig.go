@@ -121,6 +121,28 @@ func (r *Rig) Alone(t, most, fn int, regs ...uint64) (told [12]uint64, steps int
 	return told, steps
 }
 
+// DoesNone tells whether nothing is done of these routines, by thread 0, nor of a nil machine, of threads that aren't there, and of one that is within nothing; else of which routine something is (-1, if of none of these).
+func (r *Rig) DoesNone(fns ...int) (int, bool) {
+	was := r.M.Mem().Accesses()
+	r.Do(nil, 0)
+	for t := -1; t <= r.M.Threads(); t++ {
+		r.Do(r.M, t)
+	}
+	if r.M.Mem().Accesses() != was {
+		return -1, false
+	}
+	for _, fn := range fns {
+		r.M.Thread(0).Call(fn)
+		r.Do(r.M, 0)
+		f := r.M.Thread(0).Top()
+		if f == nil || f.Fn != fn || f.PC != 0 || r.M.Mem().Accesses() != was || r.M.Fault() {
+			return fn, false
+		}
+		r.M.Thread(0).Back()
+	}
+	return 0, true
+}
+
 // Told is a done call as two events, one behind the other.
 func (r *Rig) Told(t int, c api.Call, a api.Answer) {
 	r.Events = append(r.Events, api.Event{Thread: t, Call: c}, api.Event{Thread: t, Back: true, Answer: a})

@@ -187,7 +187,6 @@ func TestWhateverTheTurns(t *testing.T) { // 27.2
 }
 
 func TestOtherRoutines(t *testing.T) { // 27.1
-	Do(nil, 0)
 	r := rig.New(1, 8, 9, Do)
 	if told, _ := r.Alone(0, 99, clock.Tick); told[0] != 1 {
 		t.Error("Tick is done")
@@ -198,19 +197,7 @@ func TestOtherRoutines(t *testing.T) { // 27.1
 	if _, steps := r.Alone(0, 999, Sweep); steps > 8*8+60 {
 		t.Errorf("Sweep takes %d steps", steps)
 	}
-	was := r.M.Mem().Accesses()
-	for _, fn := range []int{0, 59, 64, 70} {
-		r.M.Thread(0).Call(fn)
-		Do(r.M, 0)
-		if r.M.Thread(0).Top().Fn != fn {
-			t.Errorf("routine %d is done", fn)
-		}
-		r.M.Thread(0).Back()
-	}
-	Do(r.M, -1)
-	Do(r.M, 0)
-	Do(r.M, 1)
-	if r.M.Mem().Accesses() != was || r.M.Fault() {
-		t.Error("something is done")
+	if fn, is := r.DoesNone(0, 59, 64, 70); !is {
+		t.Errorf("routine %d is done", fn)
 	}
 }
